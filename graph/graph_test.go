@@ -347,21 +347,29 @@ func TestManyThreads(t *testing.T) {
 	}
 }
 
+// cutAt holds that of four threads in a ring at waits for nobody: nothing is lent to the next one, and nothing goes round.
+func cutAt(t *testing.T, waits []int, owners []int, at int) {
+	t.Helper()
+	of(t, waits, owners, 4).all()
+	if On(waits, owners, 4, at) != -1 || len(Chain(waits, owners, 4, at)) != 0 || !Acyclic(waits, owners, 4) {
+		t.Errorf("of (%v, %v): On %d", waits, owners, On(waits, owners, 4, at))
+	}
+	next := (at + 1) % 4
+	for _, base := range [][]api.Prio{{fixed(9), fixed(8), fixed(7), fixed(6)}, {early(9), early(8), early(7), early(6)}} {
+		lends(t, base, waits, owners)
+		if got := Effective(base, waits, owners); got[next] != base[next] {
+			t.Errorf("Effective(%v, %v, %v): %v", base, waits, owners, got)
+		}
+	}
+}
+
 // P11.1, P11.2: waits that name no mutex, at each place: nobody is waited for there.
 func TestWaitsThatNameNoMutex(t *testing.T) {
-	base := []api.Prio{fixed(9), fixed(8), fixed(7), fixed(6)}
 	for _, m := range append(strangers(), 4, 5, 6, 7, 8) {
 		for at := range 4 {
 			waits, owners := []int{0, 1, 2, 3}, []int{1, 2, 3, 0}
 			waits[at] = m
-			of(t, waits, owners, 4).all()
-			lends(t, base, waits, owners)
-			if On(waits, owners, 4, at) != -1 || len(Chain(waits, owners, 4, at)) != 0 || !Acyclic(waits, owners, 4) {
-				t.Errorf("of (%v, %v): On %d", waits, owners, On(waits, owners, 4, at))
-			}
-			if got := Effective(base, waits, owners); got[(at+1)%4] != base[(at+1)%4] {
-				t.Errorf("Effective(%v, %v, %v): %v", base, waits, owners, got)
-			}
+			cutAt(t, waits, owners, at)
 		}
 		for held := range 4 {
 			of(t, []int{m, held, 0, 1}, []int{0, 1, 2, 3}[:held], 4).all()
@@ -371,19 +379,11 @@ func TestWaitsThatNameNoMutex(t *testing.T) {
 
 // P11.1, P11.2: owners that are no thread's number, at each place: the mutex is nobody's.
 func TestOwnersThatAreNoThread(t *testing.T) {
-	base := []api.Prio{early(1), early(2), early(3), early(4)}
 	for _, owner := range append(strangers(), 4, 5, 6, 7, 8) {
 		for at := range 4 {
 			waits, owners := []int{0, 1, 2, 3}, []int{1, 2, 3, 0}
 			owners[at] = owner
-			of(t, waits, owners, 4).all()
-			lends(t, base, waits, owners)
-			if On(waits, owners, 4, at) != -1 || len(Chain(waits, owners, 4, at)) != 0 || !Acyclic(waits, owners, 4) {
-				t.Errorf("of (%v, %v): On %d", waits, owners, On(waits, owners, 4, at))
-			}
-			if got := Effective(base, waits, owners); got[(at+1)%4] != base[(at+1)%4] {
-				t.Errorf("Effective(%v, %v, %v): %v", base, waits, owners, got)
-			}
+			cutAt(t, waits, owners, at)
 		}
 	}
 	// The same numbers are threads where there are as many.
